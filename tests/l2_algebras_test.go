@@ -832,22 +832,32 @@ func TestParseAlgebraReadsWhatIsWritten(t *testing.T) {
 	}
 }
 
+// changedTexts returns all texts in which a single byte of s is changed, added or left out.
+func changedTexts(s string) []string {
+	var changed []string
+	for i := range len(s) + 1 {
+		for c := range 256 {
+			sign := string([]byte{byte(c)})
+			changed = append(changed, s[:i]+sign+s[i:])
+			if i < len(s) {
+				changed = append(changed, s[:i]+sign+s[i+1:])
+			}
+		}
+		if i < len(s) {
+			changed = append(changed, s[:i]+s[i+1:])
+		}
+	}
+	return changed
+}
+
 // Each single byte of a text that is changed, added or left out makes it the text of another
 // Algebra or of none.
 func TestParseAlgebraOfChangedTexts(t *testing.T) {
 	for _, s := range []string{"1; 0", "2; 0 0 0 1; 1 0", "3; 2; 2 1 0; 0", "8"} {
-		for i := range len(s) + 1 {
-			for c := range 256 {
-				changed := []string{s[:i] + string([]byte{byte(c)}) + s[i:]}
-				if i < len(s) {
-					changed = append(changed, s[:i]+string([]byte{byte(c)})+s[i+1:], s[:i]+s[i+1:])
-				}
-				for _, x := range changed {
-					a, ok := impl.ParseAlgebra(x)
-					if ok && (!impl.IsAlgebra(a) || textOf(a) != x) || !ok && !isZeroAlgebra(a) {
-						t.Fatalf("read %q: %v, %v", x, a, ok)
-					}
-				}
+		for _, x := range changedTexts(s) {
+			a, ok := impl.ParseAlgebra(x)
+			if ok && (!impl.IsAlgebra(a) || textOf(a) != x) || !ok && !isZeroAlgebra(a) {
+				t.Fatalf("read %q: %v, %v", x, a, ok)
 			}
 		}
 	}
