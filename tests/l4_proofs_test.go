@@ -749,17 +749,27 @@ func TestPutSteps(t *testing.T) {
 	}
 }
 
-// Where a rule gives no terms, an Identity of empty lists is not what it gives.
+// Where a rule gives no terms, an Identity of empty lists is not what it gives, whether there are
+// the steps and the given Identities that it names or not.
 func TestStepsWithEmptyLists(t *testing.T) {
 	a := wordsAlgebra()
 	given := eqs("f0(x0,x1) = x0", "x0 = f0(x0,x1)", "f1(x0) = x1")
 	for k := range given {
 		for _, terms := range [][][]int{nil, words("x0"), words("x0", "x1"), {nil}, words("x0", "x1", "x2", "x3", "x4", "x5", "x0")} {
 			for _, e := range []impl.Identity{{}, {Left: word("x0")}, {Right: word("x0")}, {Left: word("f1(x0)")}} {
-				for rule := 0; rule <= 7; rule++ {
-					if checkSteps(t, a, given, []impl.EqStep{stepGiven(given, k), {Rule: rule, Eq: e, Terms: terms}}) {
-						t.Error("empty lists", k, rule, e, terms)
-					}
+				checkEmpty(t, a, given, k, impl.EqStep{Eq: e, Terms: terms})
+			}
+		}
+	}
+}
+
+// checkEmpty takes a step with an empty list through all rules and indices.
+func checkEmpty(t *testing.T, a impl.Algebra, given []impl.Identity, k int, s impl.EqStep) {
+	for s.Rule = 0; s.Rule <= 7; s.Rule++ {
+		for s.A = -1; s.A <= 3; s.A++ {
+			for s.B = -1; s.B <= 2; s.B++ {
+				if checkSteps(t, a, given, []impl.EqStep{stepGiven(given, k), s}) {
+					t.Error("empty lists", k, s)
 				}
 			}
 		}
