@@ -1152,7 +1152,7 @@ func resultsOf(all []trial) [][]int {
 	return slices.CompactFunc(list, slices.Equal[[]int])
 }
 
-func sameTerms(x, y [][]int) bool { return slices.EqualFunc(x, y, slices.Equal[[]int]) }
+func sameLists(x, y [][]int) bool { return slices.EqualFunc(x, y, slices.Equal[[]int]) }
 
 // theories returns lists of given Identities, none of which has a term with more than 2 variables
 // of its own.
@@ -1187,7 +1187,7 @@ func TestRewritesOf(t *testing.T) {
 		for _, x := range append(treesUpTo(a, 4, 0, 2), treesUpTo(a, 3, 1, 5)...) {
 			want := resultsOf(rewriteByTrial(a, given, x))
 			l, ok := impl.RewritesOf(a, given, x.list())
-			if !ok || !sameTerms(l, want) {
+			if !ok || !sameLists(l, want) {
 				t.Fatal("rewritten", given, x.text(), l, ok, want)
 			}
 			all += len(l)
@@ -1230,7 +1230,7 @@ func TestCasesOfRewrites(t *testing.T) {
 		want := words(c.want...)
 		slices.SortFunc(want, orderByRule)
 		l, ok := impl.RewritesOf(a, eqs(c.given...), word(c.term))
-		if !ok || !sameTerms(l, want) {
+		if !ok || !sameLists(l, want) {
 			t.Error("rewritten", c.given, c.term, l, ok, want)
 		}
 	}
@@ -1259,7 +1259,7 @@ func TestVariablesOfOneSide(t *testing.T) {
 				if !c.ok && len(noRewriting(a, given, s, s)) != 0 {
 					t.Error("own variables", c.text, noRewriting(a, given, s, s))
 				}
-				if want := resultsOf(rewriteByTrial(a, given, treeOf(a, slices.Clone(s)))); c.ok && !sameTerms(l, want) {
+				if want := resultsOf(rewriteByTrial(a, given, treeOf(a, slices.Clone(s)))); c.ok && !sameLists(l, want) {
 					t.Error("rewritten", c.text, l, want)
 				}
 				// The steps of proofs are not restricted so.
@@ -1283,7 +1283,7 @@ func TestChoicesOfVariables(t *testing.T) {
 	} {
 		s := word(c.term)
 		want := resultsOf(rewriteByTrial(a, given, treeOf(a, slices.Clone(s))))
-		if l, ok := impl.RewritesOf(a, given, s); !ok || !sameTerms(l, want) || len(l) != c.count {
+		if l, ok := impl.RewritesOf(a, given, s); !ok || !sameLists(l, want) || len(l) != c.count {
 			t.Error("rewritten", c.term, len(l), ok, len(want))
 		}
 	}
@@ -1301,7 +1301,7 @@ func TestRewritesAtTheLimit(t *testing.T) {
 			for _, e := range []impl.Identity{eq(c.text), turned(eq(c.text))} {
 				want := resultsOf(rewriteByTrial(a, []impl.Identity{e}, treeOf(a, slices.Clone(s))))
 				l, ok := impl.RewritesOf(a, []impl.Identity{e}, s)
-				if !ok || !sameTerms(l, want) {
+				if !ok || !sameLists(l, want) {
 					t.Error("rewritten", n, c.text, len(l), len(want), ok)
 				}
 				longest := slices.ContainsFunc(l, func(u []int) bool { return len(u) == n+c.more })
@@ -1314,7 +1314,7 @@ func TestRewritesAtTheLimit(t *testing.T) {
 	full := nested(1, 59, 0)
 	given := eqs("f1(x0) = f1(f1(x0))")
 	l, ok := impl.RewritesOf(a, given, full)
-	if !ok || !sameTerms(l, [][]int{full[1:]}) {
+	if !ok || !sameLists(l, [][]int{full[1:]}) {
 		t.Error("a full term", len(l), ok)
 	}
 	if steps, ok := impl.ProveStep(a, given, full[1:], full); !ok || len(steps) != 3 || !checkSteps(t, a, given, steps) {
@@ -1343,7 +1343,7 @@ func TestNumbersOfRewrites(t *testing.T) {
 		s := vineOf(constants)
 		want := resultsOf(rewriteByTrial(a, given, treeOf(a, slices.Clone(s))))
 		l, ok := impl.RewritesOf(a, given, s)
-		if len(want) != 281+constants || ok != (constants <= 19) || ok && !sameTerms(l, want) || !ok && len(l) != 0 {
+		if len(want) != 281+constants || ok != (constants <= 19) || ok && !sameLists(l, want) || !ok && len(l) != 0 {
 			t.Error("rewritten", constants, len(want), len(l), ok)
 		}
 		// One step is proved however many terms there are.
@@ -1385,7 +1385,7 @@ func TestLengthOfTheLine(t *testing.T) {
 	for most := range 7 {
 		for i, u := range [][]int{s, l[0], l[299]} {
 			p, ok := impl.ReachTerm(a, grow, s, u, most)
-			if ok != (i == 0) || !ok && len(p) != 0 || ok && !sameTerms(p, [][]int{s}) {
+			if ok != (i == 0) || !ok && len(p) != 0 || ok && !sameLists(p, [][]int{s}) {
 				t.Error("one more in the line", most, i, len(p), ok)
 			}
 		}
@@ -1403,7 +1403,7 @@ func TestLengthOfTheLine(t *testing.T) {
 		one, ok := impl.ReachTerm(a, grow, small, u, 1)
 		two, fine := impl.ReachTerm(a, grow, small, u, 2)
 		_, is := reachByTrial(next, small, u, 2)
-		if !ok || !sameTerms(one, [][]int{small, u}) || fine != is || !fine && len(two) != 0 || fine && !sameTerms(one, two) {
+		if !ok || !sameLists(one, [][]int{small, u}) || fine != is || !fine && len(two) != 0 || fine && !sameLists(one, two) {
 			t.Error("reached", i, one, two, fine, is)
 		}
 		if is {
@@ -1420,7 +1420,7 @@ func TestLengthOfTheLine(t *testing.T) {
 		t.Fatal("rewritten", len(l), ok)
 	}
 	for _, u := range [][]int{l[0], l[299]} {
-		if p, ok := impl.ReachTerm(a, eqs("x0 = x1"), vine, u, 1); !ok || !sameTerms(p, [][]int{vine, u}) {
+		if p, ok := impl.ReachTerm(a, eqs("x0 = x1"), vine, u, 1); !ok || !sameLists(p, [][]int{vine, u}) {
 			t.Error("a full line", len(p), ok)
 		}
 	}
@@ -1497,7 +1497,7 @@ func TestReachTerm(t *testing.T) {
 				most := (i + j + k) % 4
 				want, is := reachByTrial(next, s, u, most)
 				l, ok := impl.ReachTerm(a, given, s, u, most)
-				if ok != is || !sameTerms(l, want) {
+				if ok != is || !sameLists(l, want) {
 					t.Fatal("reached", given, s, u, most, l, ok, want)
 				}
 				lengths[len(l)]++
@@ -1525,7 +1525,7 @@ func TestReachTermFarther(t *testing.T) {
 			want, is := reachByTrial(next, s, u, most)
 			l, ok := impl.ReachTerm(a, given, s, u, most)
 			steps, fine := impl.ProveByReach(a, given, s, u, most)
-			if ok != is || fine != is || !sameTerms(l, want) || !fine && len(steps) != 0 {
+			if ok != is || fine != is || !sameLists(l, want) || !fine && len(steps) != 0 {
 				t.Error("reached", text, most, l, ok, want, len(steps), fine)
 			}
 			found[len(l)]++
@@ -1563,7 +1563,7 @@ func TestReachTermWithMost(t *testing.T) {
 				is := most >= far && most >= 0 && most <= 6
 				l, ok := impl.ReachTerm(a, given, at(i), at(j), most)
 				steps, fine := impl.ProveByReach(a, given, at(i), at(j), most)
-				if ok != is || fine != is || ok && !sameTerms(l, want) || !ok && len(l)+len(steps) != 0 {
+				if ok != is || fine != is || ok && !sameLists(l, want) || !ok && len(l)+len(steps) != 0 {
 					t.Fatal("reached", i, j, most, l, ok, len(steps), fine)
 				}
 				if !fine {
@@ -1600,7 +1600,7 @@ func TestReachTermOfAnExhaustedLine(t *testing.T) {
 			if ok || fine || len(l)+len(steps) != 0 {
 				t.Error("reached", c, most, l, len(steps))
 			}
-			if l, ok := impl.ReachTerm(a, eqs(c.given...), word(c.s), word(c.s), most); !ok || !sameTerms(l, words(c.s)) {
+			if l, ok := impl.ReachTerm(a, eqs(c.given...), word(c.s), word(c.s), most); !ok || !sameLists(l, words(c.s)) {
 				t.Error("a term from itself", c, most, l, ok)
 			}
 		}
@@ -1702,7 +1702,7 @@ func TestCasesOfProveStep(t *testing.T) {
 		}
 	}
 	steps, ok := impl.ProveStep(a, eqs("f0(x5,x4) = f2"), word("f1(f2)"), word("f1(f0(x0,x0))"))
-	if !ok || !sameTerms(steps[2].Terms, words("x0", "x1", "x2", "x3", "x0", "x0")) {
+	if !ok || !sameLists(steps[2].Terms, words("x0", "x1", "x2", "x3", "x0", "x0")) {
 		t.Error("terms that are put", steps, ok)
 	}
 	for _, c := range [][3]string{
@@ -1875,7 +1875,7 @@ func TestProofsInOtherAlgebras(t *testing.T) {
 		}
 		l, one := impl.RewritesOf(a, given, s)
 		p, two := impl.ProveByReach(a, given, s, u, 2)
-		if !one || !two || !sameTerms(l, want) || !sameSteps(p, proof) {
+		if !one || !two || !sameLists(l, want) || !sameSteps(p, proof) {
 			t.Error("rewritten", size, l, p)
 		}
 	}
