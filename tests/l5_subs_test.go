@@ -249,6 +249,7 @@ func checkGenerated(t *testing.T, a impl.Algebra, subs [][]int, some []int) {
 }
 
 func TestGeneratedSubuniverses(t *testing.T) {
+	t.Parallel()
 	for _, a := range subAlgebras() {
 		subs := subsByRule(a)
 		for _, l := range ascending(a.Size) {

@@ -826,6 +826,7 @@ func chainByTrial(size int, pairs [][2]int, u, v int) ([]int, bool) {
 }
 
 func TestTranslatedPairsAndChains(t *testing.T) {
+	t.Parallel()
 	for i, a := range congruenceAlgebras() {
 		m := movesByRule(a)
 		for x := range a.Size {

@@ -336,6 +336,7 @@ func TestSearches(t *testing.T) {
 
 // What is found is just what there is: all maps are tried.
 func TestFoundAmongAllMaps(t *testing.T) {
+	t.Parallel()
 	pairs := 0
 	eachPair(func(a, b impl.Algebra) {
 		if power(b.Size, a.Size) > 3200 {

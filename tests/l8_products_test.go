@@ -425,6 +425,7 @@ func spaces() []struct {
 
 // Each list of tuples is tried, and subpowers are those that are closed.
 func TestAllSubpowers(t *testing.T) {
+	t.Parallel()
 	for _, s := range spaces() {
 		tuples := argsOf(s.a.Size, s.k)
 		var subpowers [][][]int
@@ -597,6 +598,7 @@ func firstOf(size, arity int) impl.Algebra {
 
 // Just MostTuples tuples are a subpower, and one more is none.
 func TestLongestSubpowers(t *testing.T) {
+	t.Parallel()
 	cases := []struct {
 		a    impl.Algebra
 		most int
@@ -787,6 +789,7 @@ func limitCases() []limitCase {
 }
 
 func TestNumbersOfTuples(t *testing.T) {
+	t.Parallel()
 	for _, c := range limitCases() {
 		for _, gens := range [][][]int{c.gens, widened(c.gens), widened(widened(c.gens))} {
 			k := len(gens[0])
@@ -873,6 +876,7 @@ func TestGenerators(t *testing.T) {
 
 // What some tuples generate is what grows of them, in Algebras of all Sizes.
 func TestGrownSubpowers(t *testing.T) {
+	t.Parallel()
 	done, failed := 0, 0
 	for i, a := range append(subAlgebras(), termAlgebras()...) {
 		if i%3 != 0 && a.Size < 7 {
@@ -1188,6 +1192,7 @@ func TestFirstTerms(t *testing.T) {
 // Where more than MostTuples tuples are generated, no first term is told, not even of a generator;
 // but terms still make tuples.
 func TestTermsOfManyTuples(t *testing.T) {
+	t.Parallel()
 	just, over := 0, 0
 	for _, c := range limitCases() {
 		for _, gens := range [][][]int{c.gens, widened(c.gens)} {
@@ -1289,6 +1294,7 @@ func TestLongestTerms(t *testing.T) {
 
 // Terms in Algebras of all Sizes, also of several operations at once.
 func TestTermsOfGrownSubpowers(t *testing.T) {
+	t.Parallel()
 	done, long := 0, 0
 	for i, a := range append(subAlgebras(), termAlgebras()...) {
 		if i%2 != 0 && a.Size < 6 {
@@ -1459,6 +1465,7 @@ func TestProductFunctionsLeaveTheirArguments(t *testing.T) {
 
 // The longest lists of the greatest Algebras are done in good time.
 func TestLargeSubpowers(t *testing.T) {
+	t.Parallel()
 	for _, c := range []struct {
 		a     impl.Algebra
 		count int
