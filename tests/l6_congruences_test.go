@@ -5,6 +5,7 @@ import (
 	"fmt"
 	"math"
 	"slices"
+	"sync"
 	"testing"
 
 	"loop.example/g01078/impl"
@@ -38,11 +39,17 @@ func TestCongruenceLimits(t *testing.T) {
 // wrongCounts are numbers of elements that no partition has.
 func wrongCounts() []int { return []int{0, -1, -8, 9, 10, 64, math.MaxInt, math.MinInt} }
 
-// knownPartitions keeps what partitionsOf returns, which nobody may change.
-var knownPartitions = map[int][][]int{}
+// knownPartitions keeps what partitionsOf returns, which nobody may change. Tests that run beside each
+// other ask for it.
+var (
+	knownPartitions = map[int][][]int{}
+	knowing         sync.Mutex
+)
 
 // partitionsOf returns all partitions of 0..n-1 in the order in which congruences are listed.
 func partitionsOf(n int) [][]int {
+	knowing.Lock()
+	defer knowing.Unlock()
 	if all, ok := knownPartitions[n]; ok {
 		return all
 	}
